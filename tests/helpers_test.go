@@ -1,5 +1,7 @@
 package tests
 
+import "strconv"
+
 // parsed is what a function with a text as its argument and a second result of type bool gives.
 type parsed[T any] struct {
 	value T
@@ -34,3 +36,6 @@ func allBytes() string {
 	}
 	return string(b)
 }
+
+// floatText writes a number so that each other one is written otherwise.
+func floatText(x float32) string { return strconv.FormatFloat(float64(x), 'g', -1, 32) }
