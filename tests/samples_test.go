@@ -21,7 +21,7 @@ func sum(x, y float32) float32 { return float32(float64(x) + float64(y)) }
 
 func difference(x, y float32) float32 { return float32(float64(x) - float64(y)) }
 
-// quotient of a single and 2 or 4 is exact as a float64.
+// quotient is rounded once, too, if both numbers are singles: as a float64 it has enough digits.
 func quotient(x float32, n float64) float32 { return float32(float64(x) / n) }
 
 // countingSamples returns samples 1, 2, 3 and so on.
