@@ -39,15 +39,19 @@ func lineWithBurst(burst []float32) []float32 {
 	return slices.Concat(slices.Repeat([]float32{-64}, 8), burst, countingSamples(8))
 }
 
+// coloured returns the samples of cells with these colours, also their signs of 0, and brightnesses
+// that are 0 or nearly so.
+func coloured(colours ...complex64) []float32 {
+	var samples []float32
+	for _, c := range colours {
+		samples = append(samples, real(c), 0-imag(c), 0-real(c), imag(c))
+	}
+	return samples
+}
+
 // lineWithColours returns a line with these colours, also their signs of 0, in the cells of its
 // burst.
-func lineWithColours(colours ...complex64) []float32 {
-	var burst []float32
-	for _, c := range colours {
-		burst = append(burst, real(c), 0-imag(c), 0-real(c), imag(c))
-	}
-	return lineWithBurst(burst)
-}
+func lineWithColours(colours ...complex64) []float32 { return lineWithBurst(coloured(colours...)) }
 
 // lineWithColour returns a line with this BurstColour, if its parts are not too small.
 func lineWithColour(c complex64) []float32 { return lineWithColours(c, c, c, c) }
